@@ -4,7 +4,7 @@ import (
 	"math"
 
 	"solder/api"
-	"solder/code"
+	"solder/rels"
 )
 
 // Where a symbol is defined, and what a relocation patches.
@@ -74,25 +74,8 @@ func rise(a, b api.Rel) bool {
 
 // isPatched tells whether a relocation of this kind may be at the word w of a text.
 func isPatched(kind int, w uint32) bool {
-	i, e := code.Decode(w)
-	return e == api.OK && i.Imm == 0 && isOfKind(kind, i.Op)
-}
-
-// isOfKind tells whether relocations of this kind are at instructions of op.
-func isOfKind(kind, op int) bool {
-	switch op {
-	case api.LUI:
-		return kind == api.RHi
-	case api.ADDI, api.SLTI, api.SLTIU, api.XORI, api.ORI, api.ANDI, api.LB, api.LBU, api.LW, api.JALR, api.FLD:
-		return kind == api.RLoI
-	case api.SB, api.SW, api.FSD:
-		return kind == api.RLoS
-	case api.JAL:
-		return kind == api.RJal
-	case api.BEQ, api.BNE, api.BLT, api.BGE, api.BLTU, api.BGEU:
-		return kind == api.RBranch
-	}
-	return false
+	_, is := rels.At(kind, w)
+	return is
 }
 
 func isFromTo(n, least, most int) bool {
