@@ -2,11 +2,11 @@ package layout_test
 
 import (
 	"math"
-	"reflect"
 	"slices"
 	"testing"
 
 	"solder/api"
+	"solder/helps"
 	"solder/layout"
 )
 
@@ -72,13 +72,8 @@ func is(t *testing.T, promise, what string, objs []api.Object, want answer) {
 	t.Helper()
 	if got := ask(objs); !same(got, want) {
 		t.Errorf("%s: %s: Layout: %v, %d bytes, error %d, want %v, %d bytes, error %d",
-			promise, what, brief(got.places), got.bytes, got.e, brief(want.places), want.bytes, want.e)
+			promise, what, helps.Brief(got.places), got.bytes, got.e, helps.Brief(want.places), want.bytes, want.e)
 	}
-}
-
-// brief is enough of a list to know it again.
-func brief(l []layout.Place) []layout.Place {
-	return l[:min(len(l), 12)]
 }
 
 // holds says whether Layout answers of objs what is wanted, and of others of their sizes as well, and whether nothing overlaps.
@@ -86,7 +81,7 @@ func holds(t *testing.T, what string, objs []api.Object, want answer) {
 	t.Helper()
 	if model := wantAnswer(objs); !same(model, want) {
 		t.Fatalf("%s: the test's model says otherwise than the test: %v, %d bytes, error %d, want %v, %d bytes, error %d",
-			what, brief(model.places), model.bytes, model.e, brief(want.places), want.bytes, want.e)
+			what, helps.Brief(model.places), model.bytes, model.e, helps.Brief(want.places), want.bytes, want.e)
 	}
 	is(t, "P7.1", what, objs, want)
 	is(t, "P7.1", what+", with symbols and relocations", withAll(objs), want)
@@ -175,18 +170,4 @@ func areInLine(t *testing.T, what string, objs []api.Object) {
 			t.Errorf("P7.2: %s: object %d stands at %v", what, n, p)
 		}
 	}
-}
-
-// clone is a list of objects in memory of its own.
-func clone(objs []api.Object) []api.Object {
-	l := slices.Clone(objs)
-	for n, o := range l {
-		l[n] = api.Object{Text: slices.Clone(o.Text), Data: slices.Clone(o.Data), Syms: slices.Clone(o.Syms), Rels: slices.Clone(o.Rels)}
-	}
-	return l
-}
-
-// equal tells whether a and b are, place by place.
-func equal(a, b []api.Object) bool {
-	return reflect.DeepEqual(a, b)
 }

@@ -6,6 +6,7 @@ import (
 	"testing"
 
 	"solder/api"
+	"solder/helps"
 )
 
 func TestOneObject(t *testing.T) {
@@ -127,8 +128,8 @@ func TestNothingButNumbersIsLookedAt(t *testing.T) {
 	for _, w := range []uint32{0, 1, 0x13, 0x000002b7, 0x80000000, math.MaxUint32} {
 		for _, b := range []byte{0, 1, 0x7f, 0x80, 0xff} {
 			for _, o := range objs {
-				fill(o.Text, w)
-				fill(o.Data, b)
+				helps.Fill(o.Text, w)
+				helps.Fill(o.Data, b)
 			}
 			holds(t, "all words and bytes alike", objs, want)
 		}
@@ -138,10 +139,4 @@ func TestNothingButNumbersIsLookedAt(t *testing.T) {
 	objs[1].Rels = make([]api.Rel, api.MaxRels+1)
 	is(t, "P7.1", "too many symbols and relocations", objs, want)
 	is(t, "P7.1", "one object twice", []api.Object{objs[0], objs[0]}, laid(48, 12, 32, 20, 40))
-}
-
-func fill[E any](l []E, e E) {
-	for n := range l {
-		l[n] = e
-	}
 }

@@ -1,10 +1,10 @@
 package layout_test
 
 import (
-	"slices"
 	"testing"
 
 	"solder/api"
+	"solder/helps"
 	"solder/layout"
 )
 
@@ -23,35 +23,17 @@ func lists() map[string][]api.Object {
 	}
 }
 
-// roomy is a list whose memory, and that of all its lists, has room behind it that isn't its own.
-func roomy(objs []api.Object) (part, all []api.Object) {
-	all = append(clone(objs), objects(sizes(5, 8, 1, 1))...)
-	for n := range all {
-		o := &all[n]
-		o.Text = append(slices.Clone(o.Text), 0xeeeeeeee)
-		o.Data = append(slices.Clone(o.Data), 0xee, 0xdd)
-		o.Syms = append(slices.Clone(o.Syms), api.Sym{Name: "room", Sect: 1})
-		o.Rels = append(slices.Clone(o.Rels), api.Rel{Sect: 1, At: 7})
-	}
-	part = slices.Clone(all)
-	for n, o := range objs {
-		a := all[n]
-		part[n] = api.Object{Text: a.Text[:len(o.Text)], Data: a.Data[:len(o.Data)], Syms: a.Syms[:len(o.Syms)], Rels: a.Rels[:len(o.Rels)]}
-	}
-	return part[:len(objs)], all
-}
-
 func TestWhatIsHandedInStays(t *testing.T) {
 	for what, objs := range lists() {
-		part, all := roomy(objs)
-		list, inner := clone(part[:cap(part)]), clone(all)
+		part, all := helps.Roomy(objs, objects(sizes(5, 8, 1, 1))...)
+		list, inner := helps.Clone(part[:cap(part)]), helps.Clone(all)
 		is(t, "P7.1", what+", with room behind", part, wantAnswer(objs))
 		for _, p := range ask(part).places {
 			for _, s := range objs[0].Syms {
 				layout.Address(p, s)
 			}
 		}
-		if !equal(clone(part[:cap(part)]), list) || !equal(all, inner) {
+		if !helps.Equal(helps.Clone(part[:cap(part)]), list) || !helps.Equal(all, inner) {
 			t.Errorf("P7.3: %s: what was handed in is now another", what)
 		}
 	}
@@ -60,15 +42,15 @@ func TestWhatIsHandedInStays(t *testing.T) {
 // What Layout answers may be changed and lengthened, and nothing else changes with it.
 func TestPlacesAreNewMemory(t *testing.T) {
 	for what, objs := range lists() {
-		kept, want := clone(objs), wantAnswer(objs)
+		kept, want := helps.Clone(objs), wantAnswer(objs)
 		a, b := ask(objs), ask(objs)
 		l := a.places[:cap(a.places)]
 		for n := range l {
 			l[n] = layout.Place{Text: -n, Data: -1}
 		}
 		_ = append(a.places, layout.Place{Text: -1, Data: -1})
-		if !same(b, want) || !equal(objs, kept) {
-			t.Errorf("P7.3: %s: an answer shares its memory with another, or with what was handed in: %v", what, brief(b.places))
+		if !same(b, want) || !helps.Equal(objs, kept) {
+			t.Errorf("P7.3: %s: an answer shares its memory with another, or with what was handed in: %v", what, helps.Brief(b.places))
 		}
 		is(t, "P7.3", what+", asked again", objs, want)
 	}
@@ -79,15 +61,9 @@ func TestAnswersStay(t *testing.T) {
 	for what, objs := range lists() {
 		want := wantAnswer(objs)
 		got := ask(objs)
-		for n := range objs {
-			fill(objs[n].Text, 0xeeeeeeee)
-			fill(objs[n].Data, 0xee)
-			fill(objs[n].Syms, api.Sym{Name: "spoilt", Sect: 2, Value: 5})
-			fill(objs[n].Rels, api.Rel{Sect: 2, At: 5})
-			objs[n] = objects(sizes(9, 9))[0]
-		}
+		helps.Spoil(objs)
 		if !same(got, want) {
-			t.Errorf("P7.3: %s: an answer has changed with what was handed in: %v, want %v", what, brief(got.places), brief(want.places))
+			t.Errorf("P7.3: %s: an answer has changed with what was handed in: %v, want %v", what, helps.Brief(got.places), helps.Brief(want.places))
 		}
 	}
 }
@@ -97,12 +73,12 @@ func TestObjectsOfTheSameMemory(t *testing.T) {
 	o := withAll(objects(sizes(3, 16)))[0]
 	half := api.Object{Text: o.Text[:2], Data: o.Data[:8], Syms: o.Syms[:1], Rels: o.Rels[:1]}
 	objs := []api.Object{o, half, o, half}
-	kept := clone(objs)
+	kept := helps.Clone(objs)
 	want := laid(104, 12, 56, 24, 72, 32, 80, 44, 96)
 	for range 3 {
 		is(t, "P7.3", "objects of the same memory", objs, want)
 	}
-	if !equal(objs, kept) {
+	if !helps.Equal(objs, kept) {
 		t.Error("P7.3: objects of the same memory: what was handed in is now another")
 	}
 }

@@ -1,12 +1,11 @@
 package resolve_test
 
 import (
-	"reflect"
 	"slices"
-	"strconv"
 	"testing"
 
 	"solder/api"
+	"solder/helps"
 	"solder/resolve"
 )
 
@@ -104,19 +103,14 @@ func is(t *testing.T, promise, what string, objs []api.Object, want answer) {
 	t.Helper()
 	got := ask(objs)
 	if !sameTargets(got.targets, want.targets) || got.at != want.at || got.e != want.e {
-		t.Errorf("%s: %s: Resolve: %v, %v, error %d, want %v, %v, error %d", promise, what, brief(got.targets), got.at, got.e, brief(want.targets), want.at, want.e)
+		t.Errorf("%s: %s: Resolve: %v, %v, error %d, want %v, %v, error %d", promise, what, helps.Brief(got.targets), got.at, got.e, helps.Brief(want.targets), want.at, want.e)
 	}
 	if got.main != want.main || got.mainE != want.mainE {
 		t.Errorf("%s: %s: Main: %v, error %d, want %v, error %d", promise, what, got.main, got.mainE, want.main, want.mainE)
 	}
 	if !slices.Equal(got.needs, want.needs) {
-		t.Errorf("%s: %s: Needs: %v, want %v", promise, what, brief(got.needs), brief(want.needs))
+		t.Errorf("%s: %s: Needs: %v, want %v", promise, what, helps.Brief(got.needs), helps.Brief(want.needs))
 	}
-}
-
-// brief is enough of a list to know it again.
-func brief[E any](l []E) []E {
-	return l[:min(len(l), 12)]
 }
 
 // holds says whether all calls answer what is wanted, and in other orders of the objects what that is then.
@@ -126,65 +120,15 @@ func holds(t *testing.T, what string, objs []api.Object, want answer) {
 		t.Fatalf("%s: the test's model says otherwise than the test: %v, want %v", what, model, want)
 	}
 	is(t, "P6.1", what, objs, want)
-	for _, order := range orders(len(objs)) {
-		moved := inOrder(objs, order)
-		is(t, "P6.2", what+", in the order "+line(order), moved, inOtherOrder(want, order, moved))
+	for _, order := range helps.Orders(len(objs), 4) {
+		moved := helps.InOrder(objs, order)
+		is(t, "P6.2", what+", in the order"+helps.Line(order), moved, inOtherOrder(want, order, moved))
 	}
 }
 
 func sameAnswer(a, b answer) bool {
 	return sameTargets(a.targets, b.targets) && slices.Equal(a.needs, b.needs) &&
 		a.at == b.at && a.e == b.e && a.main == b.main && a.mainE == b.mainE
-}
-
-func line(numbers []int) string {
-	s := ""
-	for n, x := range numbers {
-		if n == 12 {
-			return s + " .."
-		}
-		s += " " + strconv.Itoa(x)
-	}
-	return s
-}
-
-// orders are all orders of a few, and of many some: from behind, turned round, and so on. Each is a list of where what stands there stood.
-func orders(n int) [][]int {
-	first := make([]int, n)
-	for i := range first {
-		first[i] = i
-	}
-	if n > 4 {
-		behind := slices.Clone(first)
-		slices.Reverse(behind)
-		middle := slices.Concat(first[n/2:], first[:n/2])
-		last := slices.Concat(first[n-1:], first[:n-1])
-		second := slices.Concat(first[1:], first[:1])
-		return [][]int{behind, middle, last, second}
-	}
-	return permutations(first)
-}
-
-func permutations(l []int) [][]int {
-	if len(l) == 0 {
-		return [][]int{nil}
-	}
-	var all [][]int
-	for i, x := range l {
-		for _, rest := range permutations(slices.Concat(l[:i], l[i+1:])) {
-			all = append(all, append([]int{x}, rest...))
-		}
-	}
-	return all
-}
-
-// inOrder are objs in another order.
-func inOrder(objs []api.Object, order []int) []api.Object {
-	moved := make([]api.Object, len(order))
-	for now, then := range order {
-		moved[now] = objs[then]
-	}
-	return moved
 }
 
 // inOtherOrder is what a leads to, when the objects stand in that order: all is told by the old answer, but for the place of a fault.
@@ -208,18 +152,4 @@ func inOtherOrder(a answer, order []int, moved []api.Object) answer {
 		b.main = at(now[a.main.Obj], a.main.Sym)
 	}
 	return b
-}
-
-// clone is a list of objects in memory of its own.
-func clone(objs []api.Object) []api.Object {
-	l := slices.Clone(objs)
-	for n, o := range l {
-		l[n] = api.Object{Text: slices.Clone(o.Text), Data: slices.Clone(o.Data), Syms: slices.Clone(o.Syms), Rels: slices.Clone(o.Rels)}
-	}
-	return l
-}
-
-// equal tells whether a and b are, place by place.
-func equal(a, b []api.Object) bool {
-	return reflect.DeepEqual(a, b)
 }

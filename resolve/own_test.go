@@ -6,6 +6,7 @@ import (
 	"unsafe"
 
 	"solder/api"
+	"solder/helps"
 	"solder/resolve"
 )
 
@@ -22,31 +23,13 @@ func lists() map[string][]api.Object {
 	}
 }
 
-// roomy is a list whose memory, and that of all its lists, has room behind it that isn't its own.
-func roomy(objs []api.Object) (part, all []api.Object) {
-	all = append(clone(objs), object(text("room"), wants("room")), object(text("main"), wants("gone")))
-	for n := range all {
-		o := &all[n]
-		o.Text = append(slices.Clone(o.Text), 0xeeeeeeee)
-		o.Data = append(slices.Clone(o.Data), 0xee, 0xdd)
-		o.Syms = append(slices.Clone(o.Syms), wants("behind"), text("main"))
-		o.Rels = append(slices.Clone(o.Rels), api.Rel{Sect: 1, At: 7})
-	}
-	part = slices.Clone(all)
-	for n, o := range objs {
-		a := all[n]
-		part[n] = api.Object{Text: a.Text[:len(o.Text)], Data: a.Data[:len(o.Data)], Syms: a.Syms[:len(o.Syms)], Rels: a.Rels[:len(o.Rels)]}
-	}
-	return part[:len(objs)], all
-}
-
 func TestWhatIsHandedInStays(t *testing.T) {
 	for what, objs := range lists() {
-		part, all := roomy(objs)
-		list, inner := clone(part[:cap(part)]), clone(all)
+		part, all := helps.Roomy(objs, object(text("room"), wants("room")), object(text("main"), wants("gone")))
+		list, inner := helps.Clone(part[:cap(part)]), helps.Clone(all)
 		want := wantAnswer(objs)
 		is(t, "P6.1", what+", with room behind", part, want)
-		if !equal(clone(part[:cap(part)]), list) || !equal(all, inner) {
+		if !helps.Equal(helps.Clone(part[:cap(part)]), list) || !helps.Equal(all, inner) {
 			t.Errorf("P6.3: %s: what was handed in is now %v", what, all)
 		}
 	}
@@ -55,7 +38,7 @@ func TestWhatIsHandedInStays(t *testing.T) {
 // What Resolve answers may be changed and lengthened, and nothing else changes with it.
 func TestTargetsAreNewMemory(t *testing.T) {
 	for what, objs := range lists() {
-		kept, want := clone(objs), wantAnswer(objs)
+		kept, want := helps.Clone(objs), wantAnswer(objs)
 		a, _, _ := resolve.Resolve(objs)
 		b, _, _ := resolve.Resolve(objs)
 		for n, l := range a {
@@ -67,7 +50,7 @@ func TestTargetsAreNewMemory(t *testing.T) {
 		for n := range a[:cap(a)] {
 			a[:cap(a)][n] = targets(at(9, 9))
 		}
-		if !sameTargets(b, want.targets) || !equal(objs, kept) {
+		if !sameTargets(b, want.targets) || !helps.Equal(objs, kept) {
 			t.Errorf("P6.3: %s: an answer shares its memory with another, or with what was handed in: %v", what, b)
 		}
 		is(t, "P6.3", what+", asked again", objs, want)
@@ -95,12 +78,12 @@ func TestListsOfAnAnswerAreApart(t *testing.T) {
 
 func TestNeedsAreNewMemory(t *testing.T) {
 	for what, objs := range lists() {
-		kept, want := clone(objs), wantAnswer(objs)
+		kept, want := helps.Clone(objs), wantAnswer(objs)
 		a, b := resolve.Needs(objs), resolve.Needs(objs)
 		for n := range a[:cap(a)] {
 			a[:cap(a)][n] = "spoilt"
 		}
-		if !slices.Equal(b, want.needs) || !equal(objs, kept) {
+		if !slices.Equal(b, want.needs) || !helps.Equal(objs, kept) {
 			t.Errorf("P6.3: %s: an answer shares its memory with another, or with what was handed in: %v", what, b)
 		}
 		is(t, "P6.3", what+", asked again", objs, want)
@@ -112,12 +95,7 @@ func TestAnswersStay(t *testing.T) {
 	for what, objs := range lists() {
 		want := wantAnswer(objs)
 		got := ask(objs)
-		for n := range objs {
-			for m := range objs[n].Syms {
-				objs[n].Syms[m] = own("spoilt")
-			}
-			objs[n] = object(wants("spoilt"))
-		}
+		helps.Spoil(objs)
 		if !sameAnswer(got, want) {
 			t.Errorf("P6.3: %s: an answer has changed with what was handed in: %v, want %v", what, got, want)
 		}

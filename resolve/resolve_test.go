@@ -7,6 +7,7 @@ import (
 	"testing"
 
 	"solder/api"
+	"solder/helps"
 	"solder/resolve"
 )
 
@@ -59,13 +60,13 @@ func TestManyObjects(t *testing.T) {
 	}
 	holds(t, "many objects", objs, want)
 
-	twice := clone(objs)
+	twice := helps.Clone(objs)
 	twice[many-1].Syms[0], twice[many-1].Syms[2] = wants("s5"), text("s0")
 	holds(t, "the first's name once more in the last of many", twice, refused(api.ErrTwice, at(many-1, 2), "s399"))
-	none := clone(objs)
+	none := helps.Clone(objs)
 	none[many/2].Syms[3] = wants("nobody")
 	holds(t, "one without a target in the midst of many", none, refused(api.ErrNone, at(many/2, 3), "nobody"))
-	form := clone(objs)
+	form := helps.Clone(objs)
 	form[many-1].Data = make([]byte, 7)
 	holds(t, "the last of many is no object", form, refused(api.ErrForm, at(many-1, 0)))
 }
