@@ -1,5 +1,5 @@
 // Package helps has what the tests of several layers share: lists of objects that are copied, stand in other orders, or
-// have room behind.
+// have room behind; modules that have such room, or are spoilt.
 package helps
 
 import (
@@ -120,4 +120,21 @@ func Spoil(objs []api.Object) {
 		Fill(o.Rels, api.Rel{Sect: 2, At: 5})
 		objs[n] = api.Object{Text: []uint32{9}, Data: []byte{9}}
 	}
+}
+
+// Short is enough of a text to know it again.
+func Short(s string) string {
+	if len(s) > 200 {
+		return strconv.Quote(s[:120]) + " .. " + strconv.Quote(s[len(s)-60:])
+	}
+	return strconv.Quote(s)
+}
+
+// Around is what a text has where it begins to differ from another one.
+func Around(s, other string) string {
+	n := 0
+	for n < min(len(s), len(other)) && s[n] == other[n] {
+		n++
+	}
+	return strconv.Quote(s[max(0, n-60):min(len(s), n+120)])
 }

@@ -2,10 +2,10 @@ package parse_test
 
 import (
 	"fmt"
-	"strconv"
 	"testing"
 
 	"solder/api"
+	"solder/helps"
 	"solder/parse"
 )
 
@@ -36,31 +36,14 @@ func ask(text string) answer {
 	return answer{told(m), at, e}
 }
 
-// short is enough of a text to know it again.
-func short(s string) string {
-	if len(s) > 200 {
-		return strconv.Quote(s[:120]) + " .. " + strconv.Quote(s[len(s)-60:])
-	}
-	return strconv.Quote(s)
-}
-
-// around is what a text has where it begins to differ from another one.
-func around(s, other string) string {
-	n := 0
-	for n < min(len(s), len(other)) && s[n] == other[n] {
-		n++
-	}
-	return strconv.Quote(s[max(0, n-60):min(len(s), n+120)])
-}
-
 // is says whether Parse answers of a text what is wanted.
 func is(t *testing.T, promise, text string, want answer) {
 	t.Helper()
 	got := ask(text)
 	if got.at != want.at || got.e != want.e {
-		t.Errorf("%s: Parse(%s): error %d at %d, want %d at %d", promise, short(text), got.e, got.at, want.e, want.at)
+		t.Errorf("%s: Parse(%s): error %d at %d, want %d at %d", promise, helps.Short(text), got.e, got.at, want.e, want.at)
 	} else if got.module != want.module {
-		t.Errorf("%s: Parse(%s): .. %s .., want .. %s ..", promise, short(text), around(got.module, want.module), around(want.module, got.module))
+		t.Errorf("%s: Parse(%s): .. %s .., want .. %s ..", promise, helps.Short(text), helps.Around(got.module, want.module), helps.Around(want.module, got.module))
 	}
 }
 
@@ -69,7 +52,7 @@ func holds(t *testing.T, text string, want answer) {
 	t.Helper()
 	is(t, "P11.1", text, want)
 	if at, e := model(text); at != want.at || e != want.e {
-		t.Errorf("of %s the model says error %d at %d, and the test %d at %d", short(text), e, at, want.e, want.at)
+		t.Errorf("of %s the model says error %d at %d, and the test %d at %d", helps.Short(text), e, at, want.e, want.at)
 	}
 	if want.e == api.OK {
 		shown(t, text)
@@ -108,7 +91,7 @@ func parsed(t *testing.T, text string) api.Module {
 	t.Helper()
 	m, at, e := parse.Parse(text)
 	if at != 0 || e != api.OK {
-		t.Fatalf("P11.1: Parse(%s): error %d at %d", short(text), e, at)
+		t.Fatalf("P11.1: Parse(%s): error %d at %d", helps.Short(text), e, at)
 	}
 	return m
 }
@@ -123,18 +106,18 @@ func shown(t *testing.T, text string) {
 	n, at, e := parse.Parse(s)
 	if len(s) > 8192 {
 		if at != 0 || e != api.ErrLong {
-			t.Errorf("P11.2: of %s is shown %s: error %d at %d", short(text), short(s), e, at)
+			t.Errorf("P11.2: of %s is shown %s: error %d at %d", helps.Short(text), helps.Short(s), e, at)
 		}
 		return
 	}
 	if at != 0 || e != api.OK {
-		t.Errorf("P11.2: of %s is shown %s: error %d at %d", short(text), short(s), e, at)
+		t.Errorf("P11.2: of %s is shown %s: error %d at %d", helps.Short(text), helps.Short(s), e, at)
 		return
 	}
 	if a, b := told(placeless(m)), told(placeless(n)); a != b {
-		t.Errorf("P11.2: of %s is shown %s: .. %s .. became .. %s ..", short(text), short(s), around(a, b), around(b, a))
+		t.Errorf("P11.2: of %s is shown %s: .. %s .. became .. %s ..", helps.Short(text), helps.Short(s), helps.Around(a, b), helps.Around(b, a))
 	}
 	if again := parse.Show(n); again != s {
-		t.Errorf("P11.2: of %s is shown %s, and then %s", short(text), short(s), short(again))
+		t.Errorf("P11.2: of %s is shown %s, and then %s", helps.Short(text), helps.Short(s), helps.Short(again))
 	}
 }

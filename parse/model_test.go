@@ -9,6 +9,7 @@ import (
 	"testing"
 
 	"solder/api"
+	"solder/helps"
 	"solder/lex"
 )
 
@@ -308,7 +309,7 @@ func TestModel(t *testing.T) {
 		{"int a = f(1,2,3,4,5,6,7,8);", 0, 0}, {"int a = f(1,2,3,4,5,6,7,8,);", 26, 5}, {"int a = (if) 1;", 9, 11}, {"int f(void, int a);", 10, 11},
 	} {
 		if at, e := model(c.s); at != c.at || e != c.e {
-			t.Errorf("the model says of %s error %d at %d, want %d at %d", short(c.s), e, at, c.e, c.at)
+			t.Errorf("the model says of %s error %d at %d, want %d at %d", helps.Short(c.s), e, at, c.e, c.at)
 		}
 	}
 }

@@ -7,6 +7,7 @@ import (
 	"testing"
 
 	"solder/api"
+	"solder/helps"
 	"solder/parse"
 )
 
@@ -45,7 +46,7 @@ func TestShownLines(t *testing.T) {
 	}
 	for _, s := range []string{pretty, strings.ReplaceAll(pretty, "\t", ""), joined(bare)} {
 		if got := parse.Show(parsed(t, s)); got != pretty {
-			t.Errorf("P11.2: of %s is shown %s", short(s), got)
+			t.Errorf("P11.2: of %s is shown %s", helps.Short(s), got)
 		}
 		shown(t, s)
 	}
@@ -100,7 +101,7 @@ func shows(t *testing.T, m api.Module) {
 	s := parse.Show(m)
 	n, at, e := parse.Parse(s)
 	if e != api.OK || told(placeless(n)) != told(placeless(m)) || parse.Show(n) != s {
-		t.Errorf("P11.2: shown is %s, answered is error %d at %d, and %s", short(s), e, at, short(parse.Show(n)))
+		t.Errorf("P11.2: shown is %s, answered is error %d at %d, and %s", helps.Short(s), e, at, helps.Short(parse.Show(n)))
 	}
 }
 
@@ -177,7 +178,7 @@ func TestShownTooLong(t *testing.T) {
 		s := lines(n)
 		text := parse.Show(parsed(t, s))
 		if len(text) != n {
-			t.Fatalf("of %s are shown %d bytes, not %d", short(s), len(text), n)
+			t.Fatalf("of %s are shown %d bytes, not %d", helps.Short(s), len(text), n)
 		}
 		shown(t, s)
 		if n > 8192 {
@@ -216,10 +217,10 @@ func TestShownNeverTooMuch(t *testing.T) {
 		m := parsed(t, s)
 		text := parse.Show(m)
 		if len(text) > 8192 {
-			t.Fatalf("of %s are shown %d bytes", short(s), len(text))
+			t.Fatalf("of %s are shown %d bytes", helps.Short(s), len(text))
 		}
 		if before, now := len(tokensOf(t, s)), len(tokensOf(t, text)); now > before {
-			t.Errorf("P11.2: of %s with %d tokens are shown %d", short(s), before, now)
+			t.Errorf("P11.2: of %s with %d tokens are shown %d", helps.Short(s), before, now)
 		}
 		right(t, s)
 	}
@@ -231,7 +232,7 @@ func TestShownNeverTooMuch(t *testing.T) {
 		}
 		s, _ := made(source, 400)
 		if now, before := len(tokensOf(t, parse.Show(parsed(t, s)))), len(tokensOf(t, s)); now > before {
-			t.Errorf("P11.2: of %s with %d tokens are shown %d", short(s), before, now)
+			t.Errorf("P11.2: of %s with %d tokens are shown %d", helps.Short(s), before, now)
 		}
 	}
 }

@@ -5,6 +5,7 @@ import (
 	"testing"
 
 	"solder/api"
+	"solder/helps"
 	"solder/lex"
 )
 
@@ -47,7 +48,7 @@ func tokensOf(t *testing.T, text string) []api.Token {
 	t.Helper()
 	l, _, e := lex.Lex(text)
 	if e != api.OK {
-		t.Fatalf("%s has tokens that are none", short(text))
+		t.Fatalf("%s has tokens that are none", helps.Short(text))
 	}
 	return l[:len(l)-1]
 }
