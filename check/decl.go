@@ -5,6 +5,7 @@ import (
 	"strings"
 
 	"solder/api"
+	"solder/trees"
 )
 
 func (c *checker) module(m api.Module) api.Module {
@@ -85,7 +86,7 @@ func isMain(d api.Decl) bool {
 // isVariable tells whether a variable may have a type and a Len.
 func isVariable(typed, length int) bool {
 	if length != 0 {
-		return isNumber(typed)
+		return trees.IsNumber(typed)
 	}
 	return typed != api.Void
 }

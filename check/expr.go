@@ -4,6 +4,7 @@ import (
 	"strings"
 
 	"solder/api"
+	"solder/trees"
 )
 
 func (c *checker) exprs(l []api.Expr) []api.Expr {
@@ -15,26 +16,13 @@ func (c *checker) exprs(l []api.Expr) []api.Expr {
 }
 
 func (c *checker) expr(x api.Expr) api.Expr {
-	c.part(isExpr(x), x.At)
+	c.part(trees.IsExpr(x), x.At)
 	x.Op = strings.Clone(x.Op)
 	x.Kids = c.exprs(x.Kids)
 	typed, right := c.typed(&x)
 	demand(right, x.At, api.ErrType)
 	x.Type = typed
 	return x
-}
-
-// isExpr tells whether an expression has as many Kids as one that was parsed.
-func isExpr(x api.Expr) bool {
-	switch x.Kind {
-	case api.ENum, api.EReal, api.EName:
-		return len(x.Kids) == 0
-	case api.EUnary, api.ECast:
-		return len(x.Kids) == 1
-	case api.EBinary, api.EAssign, api.EIndex:
-		return len(x.Kids) == 2
-	}
-	return x.Kind == api.ECall
 }
 
 // typed is the type of an expression whose Kids have theirs, and whether they may have these; noughts among them become
@@ -57,10 +45,10 @@ func (c *checker) typed(x *api.Expr) (int, bool) {
 	case api.ECall:
 		return c.call(x)
 	case api.EIndex:
-		return pointed(x.Kids[0].Type), isPointer(x.Kids[0].Type) && x.Kids[1].Type == api.Int
+		return trees.Pointed(x.Kids[0].Type), trees.IsPointer(x.Kids[0].Type) && x.Kids[1].Type == api.Int
 	}
 	to := int(x.Num)
-	return to, isNumber(to) && isNumber(x.Kids[0].Type)
+	return to, trees.IsNumber(to) && trees.IsNumber(x.Kids[0].Type)
 }
 
 // variable is the type of an EName.
@@ -71,7 +59,7 @@ func (c *checker) variable(x *api.Expr) int {
 		return d.Type
 	}
 	x.Num = 1
-	return pointerTo(d.Type)
+	return trees.PointerTo(d.Type)
 }
 
 // call is the type of an ECall, and whether it has the arguments that it must have.

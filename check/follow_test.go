@@ -143,7 +143,7 @@ int *n() { return 0; }`
 		t.Fatalf("P12.2: error %d at %d, or %v", e, at, notFollowing(c))
 	}
 	all := 0
-	walk(&c, func(x *api.Expr) {
+	helps.Walk(&c, func(x *api.Expr) {
 		all++
 		right := *x
 		for typed := range 6 {

@@ -124,7 +124,7 @@ func keepsAllElse(t *testing.T, text string) {
 // the Nums of EName.
 func bare(m api.Module) api.Module {
 	c := helps.CloneModule(m)
-	walk(&c, func(x *api.Expr) {
+	helps.Walk(&c, func(x *api.Expr) {
 		x.Type = 0
 		if x.Kind == api.EName {
 			x.Name, x.Num = "", 0
@@ -136,27 +136,4 @@ func bare(m api.Module) api.Module {
 		}
 	}
 	return c
-}
-
-// walk calls with all expressions and statements of a module, but for the functions' own blocks.
-func walk(m *api.Module, expr func(*api.Expr), stmt func(*api.Stmt)) {
-	for n := range m.Decls {
-		walkExprs(m.Decls[n].Inits, expr)
-		walkStmts(m.Decls[n].Body.Kids, expr, stmt)
-	}
-}
-
-func walkExprs(l []api.Expr, expr func(*api.Expr)) {
-	for n := range l {
-		walkExprs(l[n].Kids, expr)
-		expr(&l[n])
-	}
-}
-
-func walkStmts(l []api.Stmt, expr func(*api.Expr), stmt func(*api.Stmt)) {
-	for n := range l {
-		walkExprs(l[n].Exprs, expr)
-		walkStmts(l[n].Kids, expr, stmt)
-		stmt(&l[n])
-	}
 }

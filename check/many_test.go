@@ -38,7 +38,7 @@ func TestMadeTexts(t *testing.T) {
 		right(t, s)
 		m := parsed(t, s)
 		c, _, _, _ := model(m)
-		walk(&c, func(x *api.Expr) {
+		helps.Walk(&c, func(x *api.Expr) {
 			exprs[x.Kind]++
 			types[x.Type]++
 			ops[x.Op]++
@@ -46,7 +46,7 @@ func TestMadeTexts(t *testing.T) {
 				noughts++
 			}
 		}, func(s *api.Stmt) { stmts[s.Kind]++ })
-		walk(&m, func(x *api.Expr) {
+		helps.Walk(&m, func(x *api.Expr) {
 			if x.Kind == api.EName && (x.Name == "putw" || x.Name == "getw" || x.Name == "main" || x.Name == "f1") {
 				hidden++
 			}

@@ -110,22 +110,14 @@ func TestAnswersAreNewMemory(t *testing.T) {
 // loose is a module whose texts stand in bytes that may change; they are answered, too.
 func loose(m api.Module) (api.Module, *[][]byte) {
 	var all [][]byte
-	change := func(s *string) {
+	m = helps.CloneModule(m)
+	helps.Names(&m, func(s *string) {
 		if *s != "" {
 			b := []byte(*s)
 			all = append(all, b)
 			*s = unsafe.String(&b[0], len(b))
 		}
-	}
-	m = helps.CloneModule(m)
-	walk(&m, func(x *api.Expr) { change(&x.Op); change(&x.Name) }, func(s *api.Stmt) { change(&s.Name) })
-	for n := range m.Decls {
-		d := &m.Decls[n]
-		change(&d.Name)
-		for k := range d.Params {
-			change(&d.Params[k].Name)
-		}
-	}
+	})
 	return m, &all
 }
 
@@ -176,7 +168,7 @@ func TestWhole(t *testing.T) {
 	right(t, whole())
 	m := parsed(t, whole())
 	uses := 0
-	walk(&m, func(x *api.Expr) {
+	helps.Walk(&m, func(x *api.Expr) {
 		if x.Kind != api.EName && x.Kind != api.ECall {
 			return
 		}

@@ -1,18 +1,21 @@
 package check
 
-import "solder/api"
+import (
+	"solder/api"
+	"solder/trees"
+)
 
 // unary is the type of an EUnary, and whether it may have such a Kid.
 func unary(op string, kid api.Expr) (int, bool) {
 	switch op {
 	case "-":
-		return kid.Type, isNumber(kid.Type)
+		return kid.Type, trees.IsNumber(kid.Type)
 	case "!", "~":
 		return api.Int, kid.Type == api.Int
 	case "*":
-		return pointed(kid.Type), isPointer(kid.Type)
+		return trees.Pointed(kid.Type), trees.IsPointer(kid.Type)
 	case "&":
-		return pointerTo(kid.Type), isLvalue(kid) && isNumber(kid.Type)
+		return trees.PointerTo(kid.Type), isLvalue(kid) && trees.IsNumber(kid.Type)
 	}
 	return api.Void, false
 }
@@ -21,7 +24,7 @@ func unary(op string, kid api.Expr) (int, bool) {
 func binary(op string, a, b *api.Expr) (int, bool) {
 	switch op {
 	case "+", "-":
-		return a.Type, areNumbers(a, b) || isPointer(a.Type) && b.Type == api.Int
+		return a.Type, areNumbers(a, b) || trees.IsPointer(a.Type) && b.Type == api.Int
 	case "*", "/":
 		return a.Type, areNumbers(a, b)
 	case "%", "<<", ">>", "&", "^", "|", "&&", "||":
@@ -36,17 +39,17 @@ func binary(op string, a, b *api.Expr) (int, bool) {
 
 // areNumbers tells whether a and b are two Ints or two Reals.
 func areNumbers(a, b *api.Expr) bool {
-	return isNumber(a.Type) && a.Type == b.Type
+	return trees.IsNumber(a.Type) && a.Type == b.Type
 }
 
 // arePointers tells whether a and b are of one pointer type, or one of them is a nought that becomes the other's.
 func arePointers(a, b *api.Expr) bool {
-	return isPointer(a.Type) && fits(b, a.Type) || isPointer(b.Type) && fits(a, b.Type)
+	return trees.IsPointer(a.Type) && fits(b, a.Type) || trees.IsPointer(b.Type) && fits(a, b.Type)
 }
 
 // fits tells whether x may stand where a type is asked for: a nought becomes the pointer that is asked for.
 func fits(x *api.Expr, typed int) bool {
-	if isPointer(typed) && x.Kind == api.ENum && x.Num == 0 {
+	if trees.IsPointer(typed) && x.Kind == api.ENum && x.Num == 0 {
 		x.Type = typed
 	}
 	return x.Type == typed
@@ -61,28 +64,4 @@ func isLvalue(x api.Expr) bool {
 		return true
 	}
 	return x.Kind == api.EUnary && x.Op == "*"
-}
-
-func isNumber(typed int) bool {
-	return typed == api.Int || typed == api.Real
-}
-
-func isPointer(typed int) bool {
-	return typed == api.PInt || typed == api.PReal
-}
-
-// pointerTo is the pointer to a number's type.
-func pointerTo(typed int) int {
-	if typed == api.Int {
-		return api.PInt
-	}
-	return api.PReal
-}
-
-// pointed is what a pointer's type points to.
-func pointed(typed int) int {
-	if typed == api.PInt {
-		return api.Int
-	}
-	return api.Real
 }

@@ -144,3 +144,38 @@ func (r remaker) inStmts(l []api.Stmt) []api.Stmt {
 	}
 	return all
 }
+
+// Walk calls with all expressions and statements of a module, but for the functions' own blocks.
+func Walk(m *api.Module, expr func(*api.Expr), stmt func(*api.Stmt)) {
+	for n := range m.Decls {
+		walkExprs(m.Decls[n].Inits, expr)
+		walkStmts(m.Decls[n].Body.Kids, expr, stmt)
+	}
+}
+
+func walkExprs(l []api.Expr, expr func(*api.Expr)) {
+	for n := range l {
+		walkExprs(l[n].Kids, expr)
+		expr(&l[n])
+	}
+}
+
+func walkStmts(l []api.Stmt, expr func(*api.Expr), stmt func(*api.Stmt)) {
+	for n := range l {
+		walkExprs(l[n].Exprs, expr)
+		walkStmts(l[n].Kids, expr, stmt)
+		stmt(&l[n])
+	}
+}
+
+// Names calls with all names and operators of a module, but for those in the functions' own blocks.
+func Names(m *api.Module, with func(*string)) {
+	Walk(m, func(x *api.Expr) { with(&x.Op); with(&x.Name) }, func(s *api.Stmt) { with(&s.Name) })
+	for n := range m.Decls {
+		d := &m.Decls[n]
+		with(&d.Name)
+		for k := range d.Params {
+			with(&d.Params[k].Name)
+		}
+	}
+}

@@ -2,6 +2,7 @@ package helps_test
 
 import (
 	"fmt"
+	"strconv"
 	"strings"
 	"testing"
 
@@ -177,5 +178,38 @@ func TestTexts(t *testing.T) {
 	}
 	if s := helps.Around("ab", "abc") + helps.Around("", ""); s != `"ab"""` {
 		t.Error(s)
+	}
+}
+
+// All expressions and statements are walked, what stands in them first, and all names are called with.
+func TestWalk(t *testing.T) {
+	m := trees()
+	order := ""
+	helps.Walk(&m, func(x *api.Expr) {
+		order += " " + strconv.Itoa(x.Kind)
+		x.At = 7
+	}, func(s *api.Stmt) {
+		order += " s" + strconv.Itoa(s.Kind)
+		s.At = 7
+	})
+	// Two Inits, the second with a Kid; then a statement with two such expressions, ahead of its Kid with two.
+	if want := " 1 3 4 1 3 4 1 3 4 s4 s2"; order != want {
+		t.Errorf("walked are%s, want%s", order, want)
+	}
+	if n := strings.Count(told(m), "At:7"); n != 11 {
+		t.Errorf("%d parts are changed by a walk", n)
+	}
+	var names []string
+	helps.Names(&m, func(s *string) {
+		if *s != "" {
+			names = append(names, *s)
+		}
+		*s = "new"
+	})
+	if got := strings.Join(names, " "); got != "a a a a f p" {
+		t.Errorf("the names are %s", got)
+	}
+	if n := strings.Count(told(m), "new"); n != 3+9*2+2 {
+		t.Errorf("%d names are changed", n)
 	}
 }
