@@ -1,7 +1,6 @@
 package check
 
 import (
-	"slices"
 	"strings"
 
 	"solder/api"
@@ -15,7 +14,7 @@ func (c *checker) module(m api.Module) api.Module {
 	}
 	for _, d := range all {
 		told := c.scopes[atTop][d.Name]
-		demand(!told.Func || !told.Static || defines(told), d.At, api.ErrName)
+		demand(!told.Func || !told.Static || trees.Defines(told), d.At, api.ErrName)
 	}
 	return api.Module{Decls: all}
 }
@@ -40,30 +39,13 @@ func (c *checker) declare(d api.Decl) {
 	// Those ahead of it agree: so one of them will do, the definition if there is one.
 	ahead, told := c.scopes[atTop][d.Name]
 	if told {
-		demand(ahead.Func == d.Func && !(defines(ahead) && defines(d)), d.At, api.ErrName)
-		demand(agree(ahead, d), d.At, api.ErrType)
+		demand(ahead.Func == d.Func && !(trees.Defines(ahead) && trees.Defines(d)), d.At, api.ErrName)
+		demand(trees.Agree(ahead, d), d.At, api.ErrType)
 	}
 	demand(isRight(d), d.At, api.ErrType)
-	if !told || defines(d) {
+	if !told || trees.Defines(d) {
 		c.scopes[atTop][d.Name] = d
 	}
-}
-
-// defines tells whether a Decl is a definition.
-func defines(d api.Decl) bool {
-	if d.Func {
-		return d.Has
-	}
-	return !d.Extern
-}
-
-// agree tells whether two Decls of one name, both functions or both variables, do.
-func agree(a, b api.Decl) bool {
-	return a.Type == b.Type && a.Len == b.Len && a.Static == b.Static && slices.EqualFunc(a.Params, b.Params, sameType)
-}
-
-func sameType(a, b api.Param) bool {
-	return a.Type == b.Type
 }
 
 // isRight tells whether a Decl is right, but for its Params, Inits and Body, which have places of their own.

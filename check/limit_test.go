@@ -1,31 +1,11 @@
 package check_test
 
 import (
-	"strings"
 	"testing"
 
 	"solder/api"
-	"solder/lex"
+	"solder/helps"
 )
-
-// filled is a text with as many tokens as there may be, all but some of them in the middle: a piece, again and again. A
-// mark is no token.
-func filled(t *testing.T, head, piece, tail string) string {
-	t.Helper()
-	tokens := func(s string) int {
-		l, _, e := lex.Lex(strings.Replace(s, "@", "", 1))
-		if e != api.OK {
-			t.Fatalf("the test's text has error %d", e)
-		}
-		return len(l) - 1
-	}
-	more := (api.MaxTokens - tokens(head) - tokens(tail)) / tokens(piece)
-	s := head + strings.Repeat(piece, more) + tail
-	if n := tokens(s); n+tokens(piece) <= api.MaxTokens {
-		t.Fatalf("the test's text has %d tokens alone", n)
-	}
-	return s
-}
 
 // Texts that are as large as they may be: all in them is looked at, up to the end.
 func TestLargestTexts(t *testing.T) {
@@ -47,9 +27,9 @@ func TestLargestTexts(t *testing.T) {
 		{"void f(){", "while(0);", "}", "@continue;}", api.ErrType},
 		{"void f(){", "if(1);else;", "}", "if(@1.5);}", api.ErrType},
 	} {
-		right(t, filled(t, c.head, c.piece, c.right))
-		wrong(t, filled(t, c.head, c.piece, c.wrong), c.e)
+		right(t, helps.Filled(c.head, c.piece, c.right))
+		wrong(t, helps.Filled(c.head, c.piece, c.wrong), c.e)
 	}
 	// Of a sum whose last operand doesn't fit, the whole one is wrong.
-	wrong(t, filled(t, "int a=@1", "+1", "+1.5;"), api.ErrType)
+	wrong(t, helps.Filled("int a=@1", "+1", "+1.5;"), api.ErrType)
 }

@@ -11,49 +11,18 @@ import (
 	"solder/parse"
 )
 
-// whole is a text that has each kind of everything.
-func whole() string {
-	return `static int a[3] = {1, -2, 3};
-extern double d;
-int *p = &a[1];
-double r = 1.5e3;
-double s[4];
-double *none = 0;
-int f(double x, int *q, double *n);
-void g(void) { putw(getw()); putd(r); }
-static double *h() { return 0; }
-int main(void) {
-	int i = 0;
-	double y[2];
-	int *z;
-	double *w = y;
-	while (i < 3) {
-		int j = a[i];
-		if (j == 1 && !i) continue; // on
-		else break;
-		if (1) if (2) ; else { int j = i; ; }
-	}
-	y[0] = (double) i * 2.5 - -d;
-	z = a;
-	*(z + 1) = f(y[0], a + 1, 0);
-	if (z == 0 || 0 != w) g();
-	return f(*h(), z = p, w = s) << 1 >> 2 <= 3 != 4 || 5 / 6 > 7 >= ~8;
-}
-int f(double left, int *q, double *n) { double x = left; { int x = *q; q = 0; } return (int) x ^ a[0] & 5 | 1; }`
-}
-
 // ownTexts are texts by what is answered of them.
 func ownTexts() map[string]string {
 	all := map[string]string{
 		"empty":         "",
 		"one":           "int name;",
-		"whole":         whole(),
+		"whole":         helps.Whole,
 		"many":          "int b; " + strings.Repeat("extern int b;", 400),
 		"inits":         "int b; int f(int x, int y, int z); int a[9] = {1, b, f(1, 2, 3), -4, a[5]}; int *p = 0;",
 		"params":        "void f(int a, double *b, int *c, double d, int e); void g() { f(1, 0, 0, 1.5, 2); }",
 		"noughts":       "int *p = 0; void f(int *q) { p = 0; f(0); if (0 == p) p == 0; int *r = 0; }",
 		"locals":        "void f(int a) { int b[2]; { int *c = b; c = &a; } if (a) int d; else double d; while (a) int e; a; }",
-		"strings":       whole() + strings.Repeat(" ", 2000),
+		"strings":       helps.Whole + strings.Repeat(" ", 2000),
 		"no name":       "int a; int f(int x) { return x + b; }",
 		"told twice":    "int a; int f(int x) { int x; }",
 		"no type":       "int a; int f(int x) { return x + 1.5; }",
@@ -165,8 +134,8 @@ func TestAskedAgain(t *testing.T) {
 
 // The whole text is right, and each name in it that becomes another one that isn't known makes it wrong there.
 func TestWhole(t *testing.T) {
-	right(t, whole())
-	m := parsed(t, whole())
+	right(t, helps.Whole)
+	m := parsed(t, helps.Whole)
 	uses := 0
 	helps.Walk(&m, func(x *api.Expr) {
 		if x.Kind != api.EName && x.Kind != api.ECall {

@@ -7,6 +7,7 @@ import (
 
 	"solder/api"
 	"solder/check"
+	"solder/helps"
 )
 
 // Modules that Parse did not answer: nothing is promised of them, but Check answers something, and ends.
@@ -96,32 +97,13 @@ func TestCircles(t *testing.T) {
 
 // Trees that are made of parts at random.
 func TestAnyTrees(t *testing.T) {
-	source := rand.New(rand.NewSource(40))
-	names := []string{"a", "f", "putw", "$0", "main", ""}
-	ops := []string{"-", "+", "&", "*", "==", "&&", "%", "!"}
-	var expr func(deep int) api.Expr
-	expr = func(deep int) api.Expr {
-		x := api.Expr{Kind: source.Intn(10), Op: ops[source.Intn(len(ops))], Name: names[source.Intn(len(names))], Num: uint32(source.Intn(3))}
-		for range source.Intn(4) {
-			if deep > 0 {
-				x.Kids = append(x.Kids, expr(deep-1))
-			}
-		}
-		return x
-	}
-	var stmt func(deep int) api.Stmt
-	stmt = func(deep int) api.Stmt {
-		s := api.Stmt{Kind: source.Intn(9), Name: names[source.Intn(len(names))], Type: source.Intn(6), Len: source.Intn(3)}
-		for range source.Intn(3) {
-			if deep > 0 {
-				s.Kids = append(s.Kids, stmt(deep-1))
-			}
-			s.Exprs = append(s.Exprs, expr(deep))
-		}
-		return s
+	any := helps.Any{
+		Pick:  rand.New(rand.NewSource(40)).Intn,
+		Names: []string{"a", "f", "putw", "$0", "main", ""},
+		Ops:   []string{"-", "+", "&", "*", "==", "&&", "%", "!"},
 	}
 	for range 5000 {
-		ends(t, "a tree made at random", ofStmt(stmt(3)))
-		ends(t, "an expression made at random", ofExpr(expr(4)))
+		ends(t, "a tree made at random", ofStmt(any.Stmt(3)))
+		ends(t, "an expression made at random", ofExpr(any.Expr(4)))
 	}
 }

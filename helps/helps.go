@@ -78,11 +78,11 @@ func permutations(l []int) [][]int {
 	return all
 }
 
-// InOrder are objs in another order.
-func InOrder(objs []api.Object, order []int) []api.Object {
-	moved := make([]api.Object, len(order))
+// InOrder are some things in another order.
+func InOrder[E any](all []E, order []int) []E {
+	moved := make([]E, len(order))
 	for now, then := range order {
-		moved[now] = objs[then]
+		moved[now] = all[then]
 	}
 	return moved
 }

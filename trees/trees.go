@@ -1,5 +1,5 @@
-// Package trees tells what types there are, and how many Kids expressions have. Layers 12 and 13 both ask it: see
-// shared/doc/11-parse.md and shared/doc/12-check.md.
+// Package trees tells what types there are, how many Kids expressions have, and which Decls are definitions or agree.
+// Layers 12 to 14 ask it: see shared/doc/11-parse.md and shared/doc/12-check.md.
 package trees
 
 import "solder/api"
