@@ -132,13 +132,13 @@ func refused(t *testing.T, what string, m api.Module) {
 
 // Trees that are made of parts at random.
 func TestAnyTrees(t *testing.T) {
-	any := helps.Any{
+	parts := helps.Any{
 		Pick:  rand.New(rand.NewSource(41)).Intn,
 		Names: []string{"a", "f", "putw", "$0", "main", "", "g", "0.a"},
 		Ops:   []string{"+"},
 	}
 	for range 3000 {
-		ended(t, "trees made at random", ofStmt(any.Stmt(3)), ofExpr(any.Expr(4)))
+		ended(t, "trees made at random", ofStmt(parts.Stmt(3)), ofExpr(parts.Expr(4)))
 	}
 }
 

@@ -97,13 +97,13 @@ func TestCircles(t *testing.T) {
 
 // Trees that are made of parts at random.
 func TestAnyTrees(t *testing.T) {
-	any := helps.Any{
+	parts := helps.Any{
 		Pick:  rand.New(rand.NewSource(40)).Intn,
 		Names: []string{"a", "f", "putw", "$0", "main", ""},
 		Ops:   []string{"-", "+", "&", "*", "==", "&&", "%", "!"},
 	}
 	for range 5000 {
-		ends(t, "a tree made at random", ofStmt(any.Stmt(3)))
-		ends(t, "an expression made at random", ofExpr(any.Expr(4)))
+		ends(t, "a tree made at random", ofStmt(parts.Stmt(3)))
+		ends(t, "an expression made at random", ofExpr(parts.Expr(4)))
 	}
 }

@@ -44,7 +44,7 @@ func TestWhole(t *testing.T) {
 // Trees that are made have each kind of part and of text, and are as deep as may be.
 func TestAny(t *testing.T) {
 	n := 0
-	any := helps.Any{
+	parts := helps.Any{
 		Pick: func(all int) int {
 			n = (n*1103515245 + 12345) & (1<<31 - 1)
 			return (n >> 16) % all
@@ -55,7 +55,7 @@ func TestAny(t *testing.T) {
 	exprs, stmts, texts := map[int]int{}, map[int]int{}, map[string]int{}
 	deepest := 0
 	for range 300 {
-		s := any.Stmt(3)
+		s := parts.Stmt(3)
 		deepest = max(deepest, levels(s))
 		m := api.Module{Decls: []api.Decl{{Func: true, Body: api.Stmt{Kids: []api.Stmt{s}}}}}
 		helps.Walk(&m, func(x *api.Expr) {
